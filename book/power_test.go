@@ -39,11 +39,11 @@ func deeds() []deed {
 	}
 }
 
-// keeps returns bytes for restarts after which all sets of up to five writes survive, the last one of them torn at some places.
+// keeps returns bytes for restarts after which all sets of up to six writes survive, as many as the deeds have that are not safe, the last one of them torn at some places.
 func keeps() []string {
 	l := []string{""}
-	for set := 1; set < 32; set++ {
-		for _, torn := range []byte{1, 4, 5, 30, 63, 64, 200} {
+	for set := 1; set < 64; set++ {
+		for _, torn := range []byte{1, 4, 30, 63, 200} {
 			var b []byte
 			for x := set; x > 0; x /= 2 {
 				b = append(b, byte(x%2)*torn)
